@@ -6,6 +6,8 @@ import (
 	"strconv"
 	"strings"
 	"testing"
+
+	"loop.example/g01382/impl"
 )
 
 const noNumber = uint32(0x7fc00000)
@@ -49,6 +51,12 @@ func showOne(v any) string {
 		return showList(x)
 	case []complex64:
 		return showList(x)
+	case []impl.Life:
+		return showList(x)
+	case impl.Life:
+		return fmt.Sprintf("{%s %v}", showOne(x.Time), x.Failed)
+	case impl.Law:
+		return fmt.Sprintf("{%d %s %s}", x.Kind, showOne(x.Shape), showOne(x.Scale))
 	case string:
 		return strconv.Quote(x)
 	}
@@ -116,6 +124,10 @@ func isZero(v any) bool {
 		return len(x) == 0
 	case []int64:
 		return len(x) == 0
+	case []impl.Life:
+		return len(x) == 0
+	case impl.Law:
+		return x == impl.Law{} && isZero(x.Shape) && isZero(x.Scale)
 	}
 	return false
 }
@@ -151,8 +163,13 @@ func (s *sweep) putComplex(x complex64) {
 
 func wantSweep(t *testing.T, what string, hash uint64, step func(s *sweep)) {
 	t.Helper()
+	wantSweepOf(t, what, 20000, hash, step)
+}
+
+func wantSweepOf(t *testing.T, what string, steps int, hash uint64, step func(s *sweep)) {
+	t.Helper()
 	s := &sweep{1, 14695981039346656037}
-	for range 20000 {
+	for range steps {
 		step(s)
 	}
 	if s.hash != hash {
