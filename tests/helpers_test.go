@@ -114,6 +114,8 @@ func isZero(v any) bool {
 		return math.Float32bits(x) == 0
 	case complex64:
 		return math.Float32bits(real(x)) == 0 && math.Float32bits(imag(x)) == 0
+	case bool:
+		return !x
 	case int64:
 		return x == 0
 	case string:
@@ -128,6 +130,8 @@ func isZero(v any) bool {
 		return len(x) == 0
 	case impl.Law:
 		return x == impl.Law{} && isZero(x.Shape) && isZero(x.Scale)
+	case impl.System:
+		return x.Parts == 0 && len(x.Paths) == 0
 	}
 	return false
 }
