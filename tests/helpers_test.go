@@ -51,12 +51,16 @@ func showOne(v any) string {
 		return showList(x)
 	case []complex64:
 		return showList(x)
+	case [][]float32:
+		return showList(x)
 	case []impl.Life:
 		return showList(x)
 	case impl.Life:
 		return fmt.Sprintf("{%s %v}", showOne(x.Time), x.Failed)
 	case impl.Law:
 		return fmt.Sprintf("{%d %s %s}", x.Kind, showOne(x.Shape), showOne(x.Scale))
+	case impl.Unit:
+		return fmt.Sprintf("{%s %v %s}", showOne(x.Time), x.Failed, showOne(x.Covers))
 	case string:
 		return strconv.Quote(x)
 	}
