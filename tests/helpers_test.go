@@ -134,6 +134,8 @@ func isZero(v any) bool {
 		return len(x) == 0
 	case impl.Law:
 		return x == impl.Law{} && isZero(x.Shape) && isZero(x.Scale)
+	case impl.Plan:
+		return x == impl.Plan{}
 	case impl.System:
 		return x.Parts == 0 && len(x.Paths) == 0
 	}
