@@ -61,6 +61,10 @@ func showOne(v any) string {
 		return fmt.Sprintf("{%d %s %s}", x.Kind, showOne(x.Shape), showOne(x.Scale))
 	case impl.Unit:
 		return fmt.Sprintf("{%s %v %s}", showOne(x.Time), x.Failed, showOne(x.Covers))
+	case impl.Saved:
+		return fmt.Sprintf("{%q %v %s}", x.Name, x.System, showOne(x.Signal))
+	case []impl.Saved:
+		return showList(x)
 	case string:
 		return strconv.Quote(x)
 	}
@@ -130,6 +134,8 @@ func isZero(v any) bool {
 		return len(x) == 0
 	case []int64:
 		return len(x) == 0
+	case []bool:
+		return len(x) == 0
 	case []impl.Life:
 		return len(x) == 0
 	case impl.Law:
@@ -138,6 +144,8 @@ func isZero(v any) bool {
 		return x == impl.Plan{}
 	case impl.System:
 		return x.Parts == 0 && len(x.Paths) == 0
+	case impl.Saved:
+		return x.Name == "" && isZero(x.System) && len(x.Signal) == 0
 	}
 	return false
 }
